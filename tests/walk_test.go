@@ -1021,20 +1021,26 @@ func sameConf(a [][]impl.Rule, b [][]impl.Rule) bool {
 	return slices.EqualFunc(a, b, slices.Equal[[]impl.Rule])
 }
 
-// checkKept calls each function once, each with copies of its own, and looks whether these are as they were, also behind the ends of the slices.
+// checkKept calls each function of walks once.
 func checkKept(t *testing.T, n []impl.Link, c [][]impl.Rule, s impl.Spot) {
 	t.Helper()
-	for i, call := range []func(n []impl.Link, c [][]impl.Rule){
+	checkCallsKeep(t, n, c, []func(n []impl.Link, c [][]impl.Rule){
 		func(n []impl.Link, c [][]impl.Rule) { impl.ConfOk(c) },
 		func(n []impl.Link, c [][]impl.Rule) { impl.WalkStep(n, c, s) },
 		func(n []impl.Link, c [][]impl.Rule) { impl.WalkAll(n, c, s) },
 		func(n []impl.Link, c [][]impl.Rule) { impl.WalkEnd(n, c, s) },
-	} {
+	})
+}
+
+// checkCallsKeep makes each call with copies of its own, and looks whether these are as they were, also behind the ends of the slices.
+func checkCallsKeep(t *testing.T, n []impl.Link, c [][]impl.Rule, calls []func(n []impl.Link, c [][]impl.Rule)) {
+	t.Helper()
+	for i, call := range calls {
 		n, c := ownNet(n), ownConf(c)
 		links, rules := slices.Clone(n[:cap(n)]), wholeConf(c)
 		call(n, c)
 		if !slices.Equal(n[:cap(n)], links) || !sameConf(wholeConf(c), rules) {
-			t.Fatalf("function %d of %v has made of %v and %v\n%v and %v", i, s, links, rules, n[:cap(n)], wholeConf(c))
+			t.Fatalf("call %d has made of %v and %v\n%v and %v", i, links, rules, n[:cap(n)], wholeConf(c))
 		}
 	}
 }
