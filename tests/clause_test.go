@@ -335,30 +335,33 @@ func TestClausesLimits(t *testing.T) {
 
 // What the lists have to contain, so that the tests below mean something.
 func TestClausesLimitsDrawn(t *testing.T) {
-	two, three, none, overfull := 0, 0, 0, 0
+	var held [4]int
+	overfull := 0
 	for _, l := range drawnClauses(120, 1) {
-		sets := predSets(l)
-		for n := range 64 {
-			hold := 0
-			for _, set := range sets {
-				hold += int(set >> n & 1)
-			}
-			switch {
-			case hold == 0:
-				none++
-			case hold == 2:
-				two++
-			case hold > 2:
-				three++
-			}
-		}
+		countHeld(&held, predSets(l))
 		if len(wantClauseRules(l)) > 48 {
 			overfull++
 		}
 	}
-	if two < 500 || three < 500 || none < 500 || overfull > 20 {
-		t.Errorf("%d headers of two clauses, %d of more, %d of none; %d lists with too many rules", two, three, none, overfull)
+	if held[2] < 500 || held[3] < 500 || held[0] < 500 || overfull > 20 {
+		t.Errorf("%v headers by the number of their clauses; %d lists with too many rules", held, overfull)
 	}
+}
+
+// countHeld counts the headers by how many of some sets they are in, those of more than three with those of three.
+func countHeld(held *[4]int, sets []uint64) {
+	for n := range 64 {
+		in := 0
+		for _, set := range sets {
+			in += int(set >> n & 1)
+		}
+		held[min(in, 3)]++
+	}
+}
+
+// spoiltPreds is texts that are no conditions, some of them for what is added to a condition or missing from it.
+func spoiltPreds(text string) []string {
+	return []string{"", text + "1", text[:len(text)-1], "s4", "2", strings.Repeat("!", 16) + "1"}
 }
 
 // checkClausesDo compares ClausesDo of every header with what is wanted.
@@ -923,7 +926,7 @@ func TestClausesOkFaults(t *testing.T) {
 				other[at].Tag = tag
 				checkClausesOk(t, other, false)
 			}
-			for _, text := range []string{"", l[at].Pred + "1", l[at].Pred[:len(l[at].Pred)-1], "s4", "2", strings.Repeat("!", 16) + "1"} {
+			for _, text := range spoiltPreds(l[at].Pred) {
 				other := slices.Clone(l)
 				other[at].Pred = text
 				checkClausesOk(t, other, false)

@@ -723,8 +723,8 @@ func TestReachNoNet(t *testing.T) {
 	}
 }
 
-// Tables that are no configuration, alone: none, one less or more, and an invalid one at each switch, also where no packet comes to it.
-func TestReachNoConf(t *testing.T) {
+// noConfs is tables that are no configuration: none, one less or more, and an invalid one at each switch.
+func noConfs() [][][]impl.Rule {
 	confs := append([][][]impl.Rule{nil, {}, make([][]impl.Rule, 3), make([][]impl.Rule, 5), hostConf()[:3], hostConf()[1:], append(hostConf(), nil), append(hostConf(), hostConf()...)}, invalidConfs()...)
 	for i, no := range noTables() {
 		sw := 1 + i%4
@@ -733,7 +733,12 @@ func TestReachNoConf(t *testing.T) {
 			confs = append(confs, [][]impl.Rule{no, no, no, no}, withTable(withTable(hostConf(), sw, no), sw%4+1, no), append(hostConf(), no), [][]impl.Rule{no})
 		}
 	}
-	for i, c := range confs {
+	return confs
+}
+
+// Tables that are no configuration, alone, also where no packet comes to the invalid one.
+func TestReachNoConf(t *testing.T) {
+	for i, c := range noConfs() {
 		checkNoReach(t, ringNet(), c, i)
 		checkNoReach(t, nil, c, i/4)
 		if i >= 64 {
